@@ -72,15 +72,21 @@ func checkBounds(l []api.Ivl) api.Errno {
 		return api.ErrLarge
 	}
 	for _, v := range l {
-		if tooFar(v.From) || tooFar(v.To) {
+		if !Near(v.From, v.To) {
 			return api.ErrForm
 		}
 	}
 	return api.OK
 }
 
-func tooFar(t int) bool {
-	return t < -api.Far || t > api.Far
+// Near is exported because times and values have the same bounds in every layer.
+func Near(numbers ...int) bool {
+	for _, n := range numbers {
+		if n < -api.Far || n > api.Far {
+			return false
+		}
+	}
+	return true
 }
 
 // rising makes a list of its own, so that sorting leaves the caller's alone.

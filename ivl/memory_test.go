@@ -6,6 +6,7 @@ import (
 	"testing"
 
 	"timeweft/api"
+	"timeweft/internal/probe"
 	"timeweft/ivl"
 )
 
@@ -17,24 +18,12 @@ func listCalls() []pairCall {
 
 // roomy is a copy of a list with room behind it, in which something stands.
 func roomy(l []api.Ivl) []api.Ivl {
-	const room = 8
-	r := append(slices.Clone(l), make([]api.Ivl, room)...)
-	for i := range r[len(l):] {
-		r[len(l)+i] = span(-7, -i)
-	}
-	return r[:len(l)]
-}
-
-// whole is a list with the room behind it.
-func whole(l []api.Ivl) []api.Ivl {
-	return l[:cap(l)]
+	return probe.Roomy(l, span(-7, -3))
 }
 
 // spoil writes over a list and the room behind it.
 func spoil(l []api.Ivl) {
-	for i := range whole(l) {
-		whole(l)[i] = span(77, 78)
-	}
+	probe.Spoil(l, span(77, 78))
 }
 
 // handedIn are pairs of lists for which some answer could be a piece of what is handed in.
@@ -58,23 +47,8 @@ func handedIn() [][2][]api.Ivl {
 func TestMemory(t *testing.T) {
 	for _, c := range listCalls() {
 		for i, in := range handedIn() {
-			a, b := roomy(in[0]), roomy(in[1])
-			wasA, wasB := slices.Clone(whole(a)), slices.Clone(whole(b))
-			first, e := c.of(a, b)
-			want := slices.Clone(first)
-			spoil(first)
-			if !slices.Equal(whole(a), wasA) || !slices.Equal(whole(b), wasB) {
-				t.Error(c.name, i, "what was handed in is changed, or shared")
-			}
-			second, f := c.of(a, b)
-			if e != f || !slices.Equal(second, want) {
-				t.Error(c.name, i, "another answer the second time")
-			}
-			spoil(a)
-			spoil(b)
-			spoil(first)
-			if !slices.Equal(second, want) {
-				t.Error(c.name, i, "the answer is shared")
+			if wrong := probe.Sharing(c.of, in[0], in[1], span(-7, -3), span(77, 78)); wrong != "" {
+				t.Error(c.name, i, wrong)
 			}
 		}
 	}
@@ -83,14 +57,14 @@ func TestMemory(t *testing.T) {
 // TestOneListTwice: the same list may be handed in on both sides.
 func TestOneListTwice(t *testing.T) {
 	l := roomy([]api.Ivl{span(0, 2), span(4, 9)})
-	was := slices.Clone(whole(l))
+	was := slices.Clone(probe.Whole(l))
 	for _, c := range pairCalls() {
 		got, e := c.of(l, l)
 		if e != api.OK || !slices.Equal(got, setOf(c.bits(timesOf(was[:2]), timesOf(was[:2])))) {
 			t.Error(c.name, got, e)
 		}
 		spoil(got)
-		if !slices.Equal(whole(l), was) {
+		if !slices.Equal(probe.Whole(l), was) {
 			t.Error(c.name, "what was handed in is changed, or shared")
 		}
 	}
@@ -100,11 +74,11 @@ func TestOneListTwice(t *testing.T) {
 func TestOthersLeaveTheirList(t *testing.T) {
 	for i, in := range handedIn() {
 		l := roomy(in[0])
-		was := slices.Clone(whole(l))
+		was := slices.Clone(probe.Whole(l))
 		ivl.Check(l)
 		ivl.Has(l, 4)
 		ivl.Size(l)
-		if !slices.Equal(whole(l), was) {
+		if !slices.Equal(probe.Whole(l), was) {
 			t.Error(i, "what was handed in is changed")
 		}
 	}
