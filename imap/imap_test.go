@@ -401,3 +401,18 @@ func TestTimes(t *testing.T) {
 		}
 	}
 }
+
+// TestBuild: what is told is asked once between each two times, and the list of times is left as it is.
+func TestBuild(t *testing.T) {
+	changes := []int{8, 0, 4, 2, 4, 6}
+	was := slices.Clone(changes)
+	var asked []int
+	got, e := imap.Build(changes, func(at int) (int, bool) {
+		asked = append(asked, at)
+		return at / 4, at != 2
+	})
+	expect(t, "Build", got, []api.Piece{told(0, 2, 0), told(4, 8, 1)}, e, api.OK)
+	if !slices.Equal(changes, was) || !slices.Equal(asked, []int{0, 2, 4, 6}) {
+		t.Error(changes, asked)
+	}
+}

@@ -89,6 +89,18 @@ func Near(numbers ...int) bool {
 	return true
 }
 
+// Spans is exported because what changes at some times alone is asked once between each two of them in other layers, too. The times may stand in any order, and more than once.
+func Spans(times []int) []api.Ivl {
+	t := slices.Clone(times)
+	slices.Sort(t)
+	t = slices.Compact(t)
+	var r []api.Ivl
+	for i := 1; i < len(t); i++ {
+		r = append(r, api.Ivl{From: t[i-1], To: t[i]})
+	}
+	return r
+}
+
 // rising makes a list of its own, so that sorting leaves the caller's alone.
 func rising(l []api.Ivl) []api.Ivl {
 	var r []api.Ivl

@@ -337,3 +337,21 @@ func TestSize(t *testing.T) {
 		}
 	}
 }
+
+func TestSpans(t *testing.T) {
+	for i, x := range []struct {
+		times []int
+		want  []api.Ivl
+	}{
+		{nil, nil},
+		{[]int{3}, nil},
+		{[]int{3, 3}, nil},
+		{[]int{9, 1, 5, 1, 9}, []api.Ivl{{From: 1, To: 5}, {From: 5, To: 9}}},
+		{[]int{api.Far, -api.Far}, []api.Ivl{{From: -api.Far, To: api.Far}}},
+	} {
+		was := slices.Clone(x.times)
+		if got := ivl.Spans(x.times); !slices.Equal(got, x.want) || !slices.Equal(x.times, was) {
+			t.Error(i, got, x.times)
+		}
+	}
+}
