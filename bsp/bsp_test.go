@@ -306,8 +306,8 @@ func TestFromNowhere(t *testing.T) {
 	}
 }
 
-// TestWrongNumbers: a wrong program, and a wrong number of workers, are told ahead of a vertex that isn't there.
-func TestWrongNumbers(t *testing.T) {
+// TestWrongPrograms: a wrong program is told ahead of a vertex that isn't there, and of a wrong number of workers.
+func TestWrongPrograms(t *testing.T) {
 	for i, g := range rightGraphs() {
 		for _, from := range append(wrongFroms(g), 0) {
 			for _, program := range wrongPrograms() {
@@ -318,10 +318,26 @@ func TestWrongNumbers(t *testing.T) {
 					refused(t, i, got, rounds, e, api.ErrArg)
 				}
 			}
-			for program := api.PHops; program <= api.PLabels; program++ {
+		}
+	}
+}
+
+// TestWrongWorkers: a wrong number of workers is told only where Run has no error: a vertex that isn't there is told ahead of it.
+func TestWrongWorkers(t *testing.T) {
+	for i, g := range rightGraphs() {
+		froms := wrongFroms(g)
+		for v := range g.Lives {
+			froms = append(froms, v)
+		}
+		for program := api.PHops; program <= api.PLabels; program++ {
+			for _, from := range froms {
+				want := api.ErrArg
+				if program != api.PLabels && (from < 0 || from >= len(g.Lives)) {
+					want = api.ErrNone
+				}
 				for _, workers := range wrongWorkers() {
 					got, rounds, e := bsp.Combined(g, program, from, workers)
-					refused(t, i, got, rounds, e, api.ErrArg)
+					refused(t, i, got, rounds, e, want)
 				}
 			}
 		}
