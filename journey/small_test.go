@@ -96,6 +96,28 @@ func holdOut(t *testing.T, g api.Graph, all map[api.Hop]ride, at, time int) {
 	leaves(t, g, g, at, time, want)
 }
 
+// holdRides holds the rides of a graph against all hops that some journey can have, and each that follows another one against its place.
+func holdRides(t *testing.T, g api.Graph, all map[api.Hop]ride) {
+	t.Helper()
+	got := journey.Rides(g)
+	if len(got) != len(all) {
+		t.Error(g, got, "not", all)
+	}
+	for i, r := range got {
+		want, ok := all[r.Hop]
+		if !ok || r.From != want.a || r.To != want.b || r.Arrive != want.arrive {
+			t.Error(g, r, "not", want, ok)
+		}
+		if i == 0 {
+			continue
+		}
+		ahead := got[i-1].Hop
+		if ahead.Depart > r.Hop.Depart || ahead.Depart == r.Hop.Depart && ahead.Edge >= r.Hop.Edge {
+			t.Error(g, r.Hop, "behind", ahead)
+		}
+	}
+}
+
 // spans are all that lie within a number of times.
 func spans(horizon int) []api.Ivl {
 	var l []api.Ivl
@@ -146,6 +168,7 @@ func TestSmallGraphs(t *testing.T) {
 func holdSmall(t *testing.T, g api.Graph, lists [][]api.Hop) {
 	t.Helper()
 	all := rides(g)
+	holdRides(t, g, all)
 	for v := range g.Lives {
 		for time := range g.Horizon {
 			for _, l := range lists {
@@ -211,6 +234,7 @@ func TestGreatGraphs(t *testing.T) {
 	for range 300 {
 		g := someGraph(r)
 		all, from, start := rides(g), r.Intn(len(g.Lives)), r.Intn(g.Horizon)
+		holdRides(t, g, all)
 		for v := range g.Lives {
 			holdOut(t, g, all, v, start)
 		}
