@@ -105,7 +105,7 @@ func holdRides(t *testing.T, g api.Graph, all map[api.Hop]ride) {
 	}
 	for i, r := range got {
 		want, ok := all[r.Hop]
-		if !ok || r.From != want.a || r.To != want.b || r.Arrive != want.arrive {
+		if !ok || r.From != want.a || r.To != want.b || r.Arrive != want.arrive || r.Cost != want.cost {
 			t.Error(g, r, "not", want, ok)
 		}
 		if i == 0 {
