@@ -1,7 +1,6 @@
 package cheap_test
 
 import (
-	"math"
 	"slices"
 	"testing"
 
@@ -12,20 +11,16 @@ import (
 	"timeweft/journey"
 )
 
-// span is short for one life.
-func span(from, to int) api.Ivl {
-	return api.Ivl{From: from, To: to}
-}
-
-// leg is short for one leg.
-func leg(from, to, time, cost int) api.Leg {
-	return api.Leg{From: from, To: to, Time: time, Cost: cost}
-}
-
-// edge is short for one edge.
-func edge(a, b int, legs ...api.Leg) api.Edge {
-	return api.Edge{A: a, B: b, Legs: legs}
-}
+// What the tests of several packages have is short here.
+var (
+	span, leg, edge           = probe.Span, probe.Leg, probe.Edge
+	living, everAlive         = probe.Living, probe.EverAlive
+	town, chain, ring, free   = probe.Town, probe.Chain, probe.Ring, probe.Free
+	rightGraphs, wrongGraphs  = probe.RightGraphs, probe.WrongGraphs
+	wrongVertices, wrongTimes = probe.WrongVertices, probe.WrongTimes
+	wild                      = probe.Wild
+	spans, oneLeg, lives      = probe.Spans, probe.OneLeg, probe.Lives
+)
 
 // hop is short for one hop.
 func hop(edge, depart int) api.Hop {
@@ -40,92 +35,6 @@ func list[T any](l ...T) []T {
 // every tells the same of each vertex.
 func every(n, vertices int) []int {
 	return slices.Repeat(list(n), vertices)
-}
-
-// living has a vertex for each life.
-func living(horizon int, lives []api.Ivl, edges ...api.Edge) api.Graph {
-	return api.Graph{Horizon: horizon, Lives: lives, Edges: edges}
-}
-
-// everAlive has a number of vertices that are there always.
-func everAlive(horizon, vertices int, edges ...api.Edge) api.Graph {
-	return living(horizon, slices.Repeat(list(span(0, horizon)), vertices), edges...)
-}
-
-// town has vertices that come later and go earlier than others, legs at times at which one of their ends, or both, aren't there, legs that touch and legs with a gap, one that comes behind the horizon, an edge without legs, a loop, and two edges between the same vertices; who waits pays less here, and more there.
-func town() api.Graph {
-	return living(10, list(span(0, 10), span(2, 8), span(0, 9), span(5, 10)),
-		edge(0, 1, leg(0, 3, 2, 5), leg(3, 6, 1, 1), leg(7, 10, 50, 1000)),
-		edge(1, 2, leg(1, 9, 1, 2)),
-		edge(0, 2, leg(0, 10, 1, 4)),
-		edge(2, 2, leg(0, 9, 3, 0)),
-		edge(2, 3),
-		edge(3, 2, leg(0, 6, 1, 6), leg(6, 7, 1, 1)),
-		edge(2, 0, leg(4, 6, 1, 0)),
-		edge(0, 1, leg(5, 9, 2, 3)))
-}
-
-// chain has as many vertices as there may be, each with an edge to the next one; backward the edges stand in the list against their way.
-func chain(backward bool) api.Graph {
-	g := everAlive(api.MaxHorizon, api.MaxVertices)
-	for v := range api.MaxVertices - 1 {
-		g.Edges = append(g.Edges, edge(v, v+1, leg(0, api.MaxHorizon, 7, api.MaxCost)))
-	}
-	if backward {
-		slices.Reverse(g.Edges)
-	}
-	return g
-}
-
-// ring has as many edges and legs as there may be, all of them from a vertex to the next one and back to the first.
-func ring() api.Graph {
-	g := everAlive(api.MaxHorizon, api.MaxVertices)
-	for i := range api.MaxEdges {
-		a := i % api.MaxVertices
-		e := edge(a, (a+1)%api.MaxVertices)
-		for l := range api.MaxLegs {
-			from := l*16 + i%5
-			e.Legs = append(e.Legs, leg(from, from+4+i%9, 1+(i+l)%3, (i*7+l*5)%40))
-		}
-		g.Edges = append(g.Edges, e)
-	}
-	return g
-}
-
-// free has rides to and fro, and round, that cost nothing.
-func free() api.Graph {
-	return everAlive(12, 3, edge(0, 1, leg(0, 12, 1, 0)), edge(1, 0, leg(0, 12, 1, 0)), edge(1, 1, leg(0, 12, 1, 0)), edge(1, 2, leg(9, 11, 1, 0)), edge(0, 0, leg(2, 9, 2, 0)))
-}
-
-func rightGraphs() []api.Graph {
-	return []api.Graph{
-		{Horizon: 1},
-		{Horizon: api.MaxHorizon, Lives: []api.Ivl{}, Edges: []api.Edge{}},
-		everAlive(1, 1), everAlive(1, 1, edge(0, 0, leg(0, 1, 1, 0))), everAlive(5, api.MaxVertices),
-		living(3, list(span(0, 1), span(1, 3)), edge(0, 1, leg(0, 3, 1, 1))),
-		town(), chain(false), chain(true), ring(), free(),
-	}
-}
-
-// wrongGraphs has one graph for each error of graph.Check, and some more.
-func wrongGraphs() []api.Graph {
-	change := func(do func(g *api.Graph)) api.Graph {
-		g := probe.CopyGraph(town())
-		do(&g)
-		return g
-	}
-	return []api.Graph{
-		{},
-		change(func(g *api.Graph) { g.Horizon = api.MaxHorizon + 1 }),
-		change(func(g *api.Graph) { g.Lives = slices.Repeat(g.Lives, 4) }),
-		change(func(g *api.Graph) { g.Edges = slices.Repeat(g.Edges, 4) }),
-		change(func(g *api.Graph) { g.Lives[3].To = 11 }),
-		change(func(g *api.Graph) { g.Edges[7].A = 4 }),
-		change(func(g *api.Graph) { g.Edges[7].B = -1 }),
-		change(func(g *api.Graph) { g.Edges[7].Legs = slices.Repeat(g.Edges[7].Legs, api.MaxLegs+1) }),
-		change(func(g *api.Graph) { g.Edges[7].Legs[0].Cost = -1 }),
-		change(func(g *api.Graph) { g.Edges[0].Legs[1].From = 2 }),
-	}
 }
 
 // pays reports an answer of Costs that isn't the one that is wanted.
@@ -406,17 +315,6 @@ func TestNoWay(t *testing.T) {
 	} {
 		noWay(t, i, town(), c.from, c.start, c.to, api.ErrNone)
 	}
-}
-
-// wrongVertices are no numbers of vertices.
-func wrongVertices(g api.Graph) []int {
-	n := len(g.Lives)
-	return []int{math.MinInt, -1, n, n + 1, math.MaxInt}
-}
-
-// wrongTimes are no times of a graph.
-func wrongTimes(g api.Graph) []int {
-	return []int{math.MinInt, -1, g.Horizon, g.Horizon + 1, math.MaxInt}
 }
 
 // TestWrongGraphs: graph.Check's error is told first, whatever else is handed in.

@@ -1,7 +1,6 @@
 package cheap_test
 
 import (
-	"math"
 	"slices"
 	"testing"
 
@@ -92,11 +91,6 @@ func TestListsAreNew(t *testing.T) {
 			}
 		}
 	}
-}
-
-// wild numbers, and some that aren't.
-func wild() []int {
-	return []int{math.MinInt, math.MinInt + 1, -1, 0, 1, 2, 3, 1001, 1 << 32, math.MaxInt - 1, math.MaxInt}
 }
 
 // TestWildGraphs: whatever stands in a graph each call answers, and with something only beside OK.

@@ -6,6 +6,7 @@ import (
 
 	"timeweft/api"
 	"timeweft/cheap"
+	"timeweft/internal/probe"
 	"timeweft/journey"
 )
 
@@ -54,11 +55,6 @@ func newPrices(g api.Graph) prices {
 		p[v] = every(api.Inf, g.Horizon)
 	}
 	return p
-}
-
-// lives says whether a vertex is there.
-func lives(g api.Graph, v, at int) bool {
-	return at >= g.Lives[v].From && at <= g.Lives[v].To-1
 }
 
 // stay lets who came wait for as long as the vertex is there.
@@ -172,28 +168,6 @@ func holdAll(t *testing.T, g api.Graph, ask asker) {
 	}
 }
 
-// spans are all that lie within a number of times.
-func spans(horizon int) []api.Ivl {
-	var l []api.Ivl
-	for from := range horizon {
-		for to := from + 1; to <= horizon; to++ {
-			l = append(l, span(from, to))
-		}
-	}
-	return l
-}
-
-// oneLeg are all edges of one leg from a vertex to another within a number of times, those included by which one comes behind them.
-func oneLeg(a, b, horizon, cost int) []api.Edge {
-	var l []api.Edge
-	for _, s := range spans(horizon) {
-		for time := 1; time <= horizon; time++ {
-			l = append(l, edge(a, b, leg(s.From, s.To, time, cost)))
-		}
-	}
-	return l
-}
-
 func TestRightGraphs(t *testing.T) {
 	for _, g := range list(town(), free(), everAlive(1, 1, edge(0, 0, leg(0, 1, 1, 0))), living(3, list(span(0, 1), span(1, 3)), edge(0, 1, leg(0, 3, 1, 1)))) {
 		holdAll(t, g, tryAll)
@@ -248,40 +222,11 @@ func TestTwoLegs(t *testing.T) {
 	}
 }
 
-// someSpan is one of any length within the horizon.
-func someSpan(r *rand.Rand, horizon int) api.Ivl {
-	from := r.Intn(horizon)
-	return span(from, from+1+r.Intn(horizon-from))
-}
-
-// someGraph has up to as much of everything as there may be.
-func someGraph(r *rand.Rand) api.Graph {
-	g := api.Graph{Horizon: 1 + r.Intn(api.MaxHorizon)}
-	for range 1 + r.Intn(api.MaxVertices) {
-		life := span(0, g.Horizon)
-		if r.Intn(3) == 0 {
-			life = someSpan(r, g.Horizon)
-		}
-		g.Lives = append(g.Lives, life)
-	}
-	slow, apart, dear := []int{2, 6, api.MaxTravel}[r.Intn(3)], []int{3, 20}[r.Intn(2)], []int{0, 2, 20, api.MaxCost}[r.Intn(4)]
-	for range r.Intn(api.MaxEdges + 1) {
-		e := edge(r.Intn(len(g.Lives)), r.Intn(len(g.Lives)))
-		for from := r.Intn(g.Horizon); from < g.Horizon && len(e.Legs) < api.MaxLegs; {
-			to := from + 1 + r.Intn(min(g.Horizon-from, 20))
-			e.Legs = append(e.Legs, leg(from, to, 1+r.Intn(slow), r.Intn(dear+1)))
-			from = to + r.Intn(apart)
-		}
-		g.Edges = append(g.Edges, e)
-	}
-	return g
-}
-
 // TestGreatGraphs: up to as much of everything as there may be; the same ones each time.
 func TestGreatGraphs(t *testing.T) {
 	r := rand.New(rand.NewSource(9))
 	for range 200 {
-		g := someGraph(r)
+		g := probe.SomeGraph(r.Intn)
 		for range 3 {
 			from, at := r.Intn(len(g.Lives)), r.Intn(g.Horizon)
 			holdFrom(t, g, from, at, hopByHop(g, from, at))
