@@ -93,7 +93,7 @@ func readLine(g *api.Graph, line string, first bool) bool {
 func numbers(words []string) ([]int, bool) {
 	var r []int
 	for _, w := range words {
-		n, ok := number(w)
+		n, ok := Number(w)
 		if !ok {
 			return nil, false
 		}
@@ -102,8 +102,8 @@ func numbers(words []string) ([]int, bool) {
 	return r, true
 }
 
-// number takes digits alone: no line that Print tells has a sign.
-func number(w string) (int, bool) {
+// Number takes digits alone: no line that Print tells has a sign. It is exported because the desk reads its numbers likewise.
+func Number(w string) (int, bool) {
 	if w == "" || len(w) > maxDigits || w[0] == '0' && w != "0" {
 		return 0, false
 	}
